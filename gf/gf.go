@@ -78,12 +78,9 @@ func Mix(out []byte, in []byte, c byte) ([]byte, api.Errno) {
 	return sum, api.OK
 }
 
-// double is a times 2.
+// double is a times 2. The bit that falls off chooses the modulus by a product, not by a branch: in long lists of bytes a branch there costs most of the time.
 func double(a byte) byte {
-	if a&0x80 != 0 {
-		return a<<1 ^ modulus
-	}
-	return a << 1
+	return a<<1 ^ a>>7*modulus
 }
 
 // powers are those of 2 from 0 on, up to where they begin anew: each element but 0 stands there once.
